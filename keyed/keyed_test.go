@@ -393,6 +393,21 @@ func TestLookRefuses(t *testing.T) {
 	}
 }
 
+// P6.3: what leads nowhere is refused by the root of noughts, too.
+func TestLookThatLeadsNowhere(t *testing.T) {
+	for count, at := range map[int]int{1: 0, 2: 0, 5: 3, math.MaxInt: 7} {
+		nowhere := sha256.Sum256(rootText(uint64(count), api.Sum{}))
+		for _, n := range []int{0, 1, 2, 3, 4, 61, 62, 63, 64} {
+			for _, path := range [][]api.Sum{sums(n), make([]api.Sum, n)} {
+				x := api.Spot{At: at, Pair: pairs("b", "1")[0], Path: path}
+				y := api.Spot{At: at + 1, Pair: pairs("d", "2")[0], Path: path}
+				refuses(t, nowhere, "b", api.Seen{Count: count, Spots: []api.Spot{x}})
+				refuses(t, nowhere, "c", api.Seen{Count: count, Spots: []api.Spot{x, y}})
+			}
+		}
+	}
+}
+
 // P6.5: what is handed in stays, with the room behind its end.
 func TestHandedInStays(t *testing.T) {
 	for n := range 12 {
